@@ -31,10 +31,7 @@ func (s *Script) Sleep(w *world.World, wait uint64, forever bool, holds func() b
 	if !s.made() || !made(w) {
 		return api.WokeStuck
 	}
-	if holds == nil {
-		holds = func() bool { return false }
-	}
-	return s.k.sleep(w, wait, forever, holds)
+	return s.k.sleep(w, wait, forever, func() bool { return ask(holds) })
 }
 
 // Left is the steps that were not taken yet, the first one with the ticks that remain of it.
@@ -63,6 +60,12 @@ func made(w *world.World) bool {
 	// No descriptor is negative: the answer is an error in each world, but which one tells, and nothing changes.
 	_, e := w.Wire(-1)
 	return e != api.ErrNil
+}
+
+// ask says whether a condition holds: one that is nil, or that panics, does not. A panic ends here, as no call of this package panics, whatever it is given.
+func ask(holds func() bool) bool {
+	defer func() { _ = recover() }()
+	return holds != nil && holds()
 }
 
 func (k *kept) sleep(w *world.World, rest uint64, forever bool, holds func() bool) int {

@@ -342,6 +342,26 @@ func TestConditionSeesTheScript(t *testing.T) {
 	}
 }
 
+// TestConditionThatPanics does not hold: the sleep goes on as if it never did.
+func TestConditionThatPanics(t *testing.T) {
+	for _, x := range []struct {
+		wait      uint64
+		forever   bool
+		want, now int
+		asked     int
+	}{{4, false, api.WokeTime, 4, 2}, {9, false, api.WokeIntr, 5, 2}, {0, true, api.WokeIntr, 5, 2}, {0, false, api.WokeTime, 0, 1}} {
+		s, w := script(t, "step 3 raise 3", "step 2 intr"), world.New()
+		asked := 0
+		n := s.Sleep(w, x.wait, x.forever, func() bool {
+			asked++
+			panic("a condition's own")
+		})
+		if n != x.want || w.Now() != uint64(x.now) || asked != x.asked {
+			t.Errorf("Sleep of %d, %v = %d at %d, asked %d times, want %d at %d, %d times", x.wait, x.forever, n, w.Now(), asked, x.want, x.now, x.asked)
+		}
+	}
+}
+
 // TestScriptKeepsNothing: what New was given, and what is answered, may be written over.
 func TestScriptKeepsNothing(t *testing.T) {
 	lines := []string{"step 2 order 1,2 put 0 6162 raise 3", "step 5 order 3 put 0 63"}
